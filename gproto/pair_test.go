@@ -3,6 +3,7 @@ package gproto
 import (
 	"fmt"
 	"math/rand/v2"
+	"slices"
 	"strings"
 	"testing"
 
@@ -457,9 +458,10 @@ func anyRight(r *rand.Rand) api.Drive {
 	return d
 }
 
-// P15.10: any bytes leave any right drive right, whatever its place is.
+// P15.10: any bytes leave any right drive right; all but its place, if that is led beyond MaxNumber.
 func TestAnyBytes(t *testing.T) {
 	r := rand.New(rand.NewPCG(15, 10))
+	beyond := 0
 	for range 30000 {
 		d := anyRight(r)
 		if !Right(d) {
@@ -471,24 +473,39 @@ func TestAnyBytes(t *testing.T) {
 				s += randomPacket(r)
 			}
 			got, _, _ := Feed(d, s)
+			if got.At > api.MaxNumber {
+				beyond++
+				got.At = 0
+			}
 			if !Right(got) {
 				t.Fatalf("Feed(%s, %s): %s", show(d), heard(s), show(got))
 			}
 			d = got
 		}
 	}
+	if beyond < 1000 {
+		t.Errorf("only %d places beyond MaxNumber", beyond)
+	}
 }
 
-// P15.10: At ends at MaxNumber, where Feed or Tick would lead it beyond.
+// P15.2, P15.3: At is as many more as bytes are cut off, beyond MaxNumber too; P15.6: there a drive is not right any more, and answered as it is.
 func TestLastPlace(t *testing.T) {
-	for _, left := range []int{0, 1, 5, 6, 7, 12, 13} {
+	for _, left := range []int{0, 1, 5, 6, 7, 12, 13, 14} {
 		d := with(running(64, 3, 1), func(d *api.Drive) { d.At = api.MaxNumber - left })
 		got, _, _ := Feed(d, ready(0)+"x"+ready(0))
-		if got.At != api.MaxNumber-max(left-13, 0) || !Right(got) || len(got.Took) != 2 {
+		took := []api.Span{{From: d.At, To: d.At + 6}, {From: d.At + 7, To: d.At + 13}}
+		if got.At != api.MaxNumber-left+13 || Right(got) != (left >= 13) || !slices.Equal(got.Took, took) {
 			t.Errorf("%d places left: %s", left, show(got))
 		}
+		if got.Took = nil; left < 13 {
+			wantFeed(t, got, ready(0), got, "", "")
+		}
+		got, _, _ = Feed(d, "abc")
+		if got.At != api.MaxNumber-left+3 || Right(got) != (left >= 3) || got.Buf != "" {
+			t.Errorf("%d places left, no packet: %s", left, show(got))
+		}
 		d.Buf = "\x10\x01\x02"
-		if got, _ := Tick(d); got.At != api.MaxNumber-max(left-3, 0) || got.Buf != "" || !Right(got) {
+		if got, _ := Tick(d); got.At != api.MaxNumber-left+3 || got.Buf != "" || Right(got) != (left >= 3) {
 			t.Errorf("%d places left, a tick: %s", left, show(got))
 		}
 	}
